@@ -1,6 +1,7 @@
 package tests
 
 import (
+	"cmp"
 	"fmt"
 	"math"
 	"math/big"
@@ -363,6 +364,17 @@ func TestTheOrderOfValuesIsTotal(t *testing.T) {
 	}
 }
 
+func checkAscending(t *testing.T, ascending []impl.Value, compare func(impl.Value, impl.Value) int) {
+	t.Helper()
+	for i, a := range ascending {
+		for j, b := range ascending {
+			if got, want := compare(a, b), cmp.Compare(i, j); got != want {
+				t.Errorf("the order of %+v, %+v is %d, not %d", a, b, got, want)
+			}
+		}
+	}
+}
+
 func TestCompare(t *testing.T) {
 	ascending := []impl.Value{
 		{Kind: -1, N: 9}, {E: -1}, null, {Kids: []impl.Value{null}}, {S: "a"}, {E: 1}, {N: 1},
@@ -372,19 +384,7 @@ func TestCompare(t *testing.T) {
 		list(list(null), integer(9)), list(list(integer(1)), integer(1)), list(list(null, null), null),
 		dict(), dict(text("a"), integer(2)), dict(text("b"), integer(1)), tag(1, integer(9)), tag(2, integer(1)), tag(2, text("")), {Kind: 10},
 	}
-	for i, a := range ascending {
-		for j, b := range ascending {
-			want := 0
-			if i < j {
-				want = -1
-			} else if i > j {
-				want = 1
-			}
-			if got := impl.Compare(a, b); got != want {
-				t.Errorf("Compare(%+v, %+v) = %d", a, b, got)
-			}
-		}
-	}
+	checkAscending(t, ascending, impl.Compare)
 }
 
 // The pairs of a map are compared in the order in which they stand.
