@@ -724,6 +724,17 @@ func checkNewStrings(t *testing.T, why string, got []string, v impl.Value) {
 	}
 }
 
+// checkApart fails if a string of v lies in s.
+func checkApart(t *testing.T, why string, v impl.Value, s string) {
+	t.Helper()
+	nodes, _ := nodesOf(v, 0)
+	for _, n := range nodes {
+		if sharesMemory(n.S, s) {
+			t.Fatalf("%s: the string %.20q has the memory of the argument", why, n.S)
+		}
+	}
+}
+
 func TestValueResultsShareNoMemory(t *testing.T) {
 	same := []impl.Value{text("same"), list(null)}
 	values := map[string]impl.Value{
