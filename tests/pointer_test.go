@@ -85,16 +85,16 @@ func ofJson(s string) impl.Value {
 	return v
 }
 
-// nameOf returns the step that leads from v to its Kid with index i, and whether
-// there is one.
+// nameOf returns the step that leads from v, valid or not, to its Kid with index
+// i, and whether there is one. Equal ones lead to the first such Kid.
 func nameOf(v impl.Value, i int) (string, bool) {
 	switch {
 	case v.Kind == impl.VList:
-		return strconv.Itoa(i), true
+		return strconv.Itoa(i), i < 1000000
 	case v.Kind == impl.VTag:
 		return "tag", true
 	case v.Kind == impl.VMap && i%2 == 1 && v.Kids[i-1].Kind == impl.VText:
-		return v.Kids[i-1].S, true
+		return v.Kids[i-1].S, len(v.Kids[i-1].S) <= 2000
 	}
 	return "", false
 }
@@ -126,8 +126,11 @@ func spotsOf(v impl.Value, steps ...string) []spot {
 	return spots
 }
 
-// partAt works out At of a valid v.
+// partAt works out At.
 func partAt(v impl.Value, steps []string) (impl.Value, bool) {
+	if len(steps) > 12 {
+		return impl.Value{}, false
+	}
 	for _, step := range steps {
 		i := named(v, step)
 		if i < 0 {
@@ -490,19 +493,102 @@ func tooMany() impl.Value {
 	return list(make([]impl.Value, 1000002)...)
 }
 
-// An invalid value has no parts that could be addressed, itself included.
+// An atRow is a row of a table: what is at the steps, or the zero Value if they
+// lead nowhere.
+type atRow struct {
+	v     impl.Value
+	steps []string
+	want  impl.Value
+}
+
+// That a value is invalid is no reason to find nothing in it.
 func TestAtOfInvalidValues(t *testing.T) {
+	bad := text("\xff")
+	twice := dict(text("a"), integer(1), text("a"), integer(2), text("b"), list(bad, integer(3)))
+	odd := dict(text("a"), integer(1), text("b"))
+	keys := dict(octets("a"), integer(1), integer(7), integer(2), list(text("a")), integer(3), impl.Value{Kind: impl.VText, E: 5, S: "a", Kids: []impl.Value{null}}, integer(4))
+	unknown := impl.Value{Kind: 11, N: 5, E: 6, S: "s", Kids: []impl.Value{integer(7), text("a"), integer(8)}}
+	rows := []atRow{
+		{twice, []string{"a"}, integer(1)}, {twice, []string{"b"}, list(bad, integer(3))}, {twice, []string{"b", "0"}, bad}, {twice, []string{"b", "1"}, integer(3)}, {list(null, twice), []string{"1", "a"}, integer(1)},
+		{list(null, integer(7), bad), []string{"0"}, null}, {list(null, integer(7), bad), []string{"1"}, integer(7)}, {list(null, integer(7), bad), []string{"2"}, bad},
+		{dict(bad, integer(1), text("a"), integer(2)), []string{"a"}, integer(2)}, {dict(bad, integer(1)), []string{"\xff"}, integer(1)}, {odd, []string{"a"}, integer(1)}, {keys, []string{"a"}, integer(4)},
+		{tag(-1, bad), []string{"tag"}, bad}, {tag(1000001, list(bad, yes)), []string{"tag", "1"}, yes}, {tag(5, integer(1), integer(2)), []string{"tag"}, integer(1)},
+		{list(unknown), []string{"0"}, unknown}, {dict(text("k"), decimal(10, 0)), []string{"k"}, decimal(10, 0)},
+		{impl.Value{Kind: impl.VList, N: 1, E: 2, S: "s", Kids: []impl.Value{no}}, []string{"0"}, no},
+	}
+	for _, v := range []impl.Value{bad, twice, odd, keys, unknown, tag(5), tag(-1, bad), decimal(0, 0), list(bad), {N: 1}} {
+		rows = append(rows, atRow{v, nil, v}, atRow{v, []string{}, v}, atRow{list(bad, v), []string{"1"}, v})
+	}
+	for _, row := range rows {
+		if got, ok := impl.At(row.v, row.steps); !ok || order(got, row.want) != 0 || impl.ValueOk(row.v) {
+			t.Errorf("At %q of %s = %s, %v", row.steps, shortened(row.v), shortened(got), ok)
+		}
+	}
+	for _, row := range []atRow{
+		{v: twice, steps: []string{"c"}}, {v: twice, steps: []string{"0"}}, {v: twice, steps: []string{""}}, {v: twice, steps: []string{"a", "0"}}, {v: twice, steps: []string{"b", "2"}},
+		{v: list(null, integer(7), bad), steps: []string{"3"}}, {v: list(null, integer(7), bad), steps: []string{"-1"}}, {v: list(null, integer(7), bad), steps: []string{"01"}}, {v: list(null, integer(7), bad), steps: []string{"1", "0"}}, {v: list(bad), steps: []string{"0", "0"}}, {v: list(bad), steps: []string{"\xff"}},
+		{v: odd, steps: []string{"b"}}, {v: odd, steps: []string{"b", "0"}}, {v: dict(text("a")), steps: []string{"a"}}, {v: keys, steps: []string{"7"}}, {v: keys, steps: []string{""}},
+		{v: tag(5), steps: []string{"tag"}}, {v: tag(-1, bad), steps: []string{"0"}}, {v: tag(5, integer(1), integer(2)), steps: []string{"1"}}, {v: tag(5, integer(1), integer(2)), steps: []string{"tag", "tag"}},
+		{v: unknown, steps: []string{"0"}}, {v: unknown, steps: []string{"a"}}, {v: unknown, steps: []string{"tag"}}, {v: unknown, steps: []string{""}},
+		{v: impl.Value{Kids: []impl.Value{yes, yes}}, steps: []string{"0"}}, {v: impl.Value{Kind: impl.VText, S: "t", Kids: []impl.Value{text("a"), yes}}, steps: []string{"a"}}, {v: impl.Value{Kind: impl.VInt, Kids: []impl.Value{yes}}, steps: []string{"tag"}},
+	} {
+		if got, ok := impl.At(row.v, row.steps); ok || !reflect.DeepEqual(got, impl.Value{}) || impl.ValueOk(row.v) {
+			t.Errorf("At %q of %s = %s, %v", row.steps, shortened(row.v), shortened(got), ok)
+		}
+	}
+}
+
+func TestAtEverywhereInInvalidValues(t *testing.T) {
+	found := 0
 	for why, v := range invalidValues() {
-		for _, steps := range [][]string{nil, {"0"}, {"1"}, {"a"}, {"k"}, {""}, {"tag"}, {"0", "0"}, {"a", "a"}, {"tag", "tag"}} {
-			if got, ok := impl.At(v, steps); ok || !reflect.DeepEqual(got, impl.Value{}) {
-				t.Errorf("%s: At %q = %s, %v", why, steps, shortened(got), ok)
+		for _, in := range []impl.Value{v, list(null, v), dict(text("a"), v, text("a"), null), tag(-1, v)} {
+			for _, steps := range pointers(someSpots(in)) {
+				want, wantOk := partAt(in, steps)
+				got, ok := impl.At(in, steps)
+				if ok != wantOk || order(got, want) != 0 {
+					t.Fatalf("%s: At %q = %s, %v", why, steps, shortened(got), ok)
+				}
+				if ok {
+					found++
+				}
 			}
 		}
 	}
+	if found < 1000 {
+		t.Error("parts that were found:", found)
+	}
+}
+
+// Only an invalid value has parts beyond the limits of a pointer.
+func TestAtBeyondTheLimits(t *testing.T) {
 	many := tooMany()
-	for _, step := range []string{"0", "999999", "1000000", "1000001"} {
-		if _, ok := impl.At(many, []string{step}); ok {
-			t.Errorf("At %s of 1000002 elements", step)
+	many.Kids[0], many.Kids[300], many.Kids[999999], many.Kids[1000000] = integer(1), integer(300), integer(999999), integer(1000000)
+	for step, want := range map[string]int{"0": 1, "300": 300, "999999": 999999} {
+		if got, ok := impl.At(many, []string{step}); !ok || order(got, integer(want)) != 0 {
+			t.Errorf("At %s of 1000002 elements = %+v, %v", step, got, ok)
+		}
+	}
+	if got, ok := impl.At(many, nil); !ok || !impl.Same(got, many) {
+		t.Error("At of 1000002 elements")
+	}
+	deep := wrapped(integer(7), 20)
+	for levels := range 13 {
+		if got, ok := impl.At(deep, equalSteps("0", levels)); !ok || order(got, wrapped(integer(7), 20-levels)) != 0 {
+			t.Errorf("At %d steps of 20 levels = %s, %v", levels, shortened(got), ok)
+		}
+	}
+	longest := strings.Repeat("k", 2000)
+	long := dict(text(longest+"k"), integer(1), text(longest), integer(2))
+	if got, ok := impl.At(long, []string{longest}); !ok || order(got, integer(2)) != 0 {
+		t.Errorf("At a key of 2000 bytes = %+v, %v", got, ok)
+	}
+	for _, row := range []atRow{
+		{v: many, steps: []string{"1000000"}}, {v: many, steps: []string{"1000001"}}, {v: many, steps: []string{"1000002"}},
+		{v: list(many.Kids[:1000000]...), steps: []string{"1000000"}}, {v: list(many.Kids[:999999]...), steps: []string{"999999"}},
+		{v: deep, steps: equalSteps("0", 13)}, {v: deep, steps: equalSteps("0", 20)}, {v: deep, steps: equalSteps("0", 21)}, {v: long, steps: []string{longest + "k"}},
+	} {
+		if got, ok := impl.At(row.v, row.steps); ok || !reflect.DeepEqual(got, impl.Value{}) {
+			t.Errorf("At %d steps %.20q: %s, %v", len(row.steps), row.steps, shortened(got), ok)
 		}
 	}
 }
@@ -964,6 +1050,9 @@ func TestPointerResultsShareNoMemory(t *testing.T) {
 		"parts":          parts,
 		"one list twice": list(list(same...), tag(1, list(same...)), dict(text("kk"), list(same...))),
 		"invalid":        list(text("\xff"), list(null, octets("cc"))),
+		"a key twice":    dict(text("aa"), list(text("bb"), list(null)), text("aa"), list(text("cc"))),
+		"a tag of two":   tag(-1, list(same...), list(same...)),
+		"too deep":       wrapped(list(text("dd"), list(same...)), 14),
 		"a text":         text("tt"),
 	}
 	for why, v := range values {
@@ -998,15 +1087,16 @@ func TestPointerResultsShareNoMemory(t *testing.T) {
 	}
 }
 
-// Values of many levels, and such as contain themselves, are invalid.
+// Values of many levels, and such as contain themselves, are invalid. What is
+// found in one that contains itself has no Kids if it contains itself too.
 func TestPointersIntoEndlessValues(t *testing.T) {
 	const levels = 20000
 	defer debug.SetMaxStack(debug.SetMaxStack(1 << 20))
 	kids := repeated(text("k"), 2)
 	kids[1] = dict(text("k"), impl.Value{Kind: impl.VMap, Kids: kids})
 	zeros, ks := equalSteps("0", levels), equalSteps("k", levels)
-	for _, v := range []impl.Value{dict(kids...), list(dict(kids...)), kids[1], wrapped(text("a"), levels)} {
-		for _, steps := range [][]string{nil, {"0"}, {"k"}, zeros, ks} {
+	for _, v := range []impl.Value{dict(kids...), list(dict(kids...)), list(dict(kids...), list(text("a"))), kids[1], wrapped(text("a"), levels)} {
+		for _, steps := range [][]string{nil, {"0"}, {"1"}, {"1", "0"}, {"k"}, {"0", "k"}, {"k", "none"}, zeros[:12], ks[:12], zeros[:13], ks[:13], zeros, ks} {
 			checkEndlessPointer(t, v, steps)
 		}
 	}
@@ -1014,8 +1104,14 @@ func TestPointersIntoEndlessValues(t *testing.T) {
 
 func checkEndlessPointer(t *testing.T, v impl.Value, steps []string) {
 	t.Helper()
-	if _, ok := impl.At(v, steps); ok || len(impl.Paths(v)) != 0 {
-		t.Error("an endless value has parts")
+	want, wantOk := partAt(v, steps)
+	got, ok := impl.At(v, steps)
+	// What contains itself has one node.
+	if ok != wantOk || !impl.Same(got, want) || impl.Nodes(want) == 1 && len(got.Kids) != 0 {
+		t.Errorf("At %d steps of an endless value: %v", len(steps), ok)
+	}
+	if len(impl.Paths(v)) != 0 {
+		t.Error("an endless value has paths")
 	}
 	for _, d := range deeds {
 		if got, ok := d.do(v, steps, null); ok || !impl.Same(got, v) {
